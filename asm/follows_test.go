@@ -345,6 +345,25 @@ func TestP9_4LongTexts(t *testing.T) {
 	}
 }
 
+// P9.2: where a text of just MaxText bytes lacks its last line feed, and has nothing to leave out, its normal one is one byte too long for Parse.
+func TestP9_2NormalIsTooLong(t *testing.T) {
+	var b strings.Builder
+	for i := 10; b.Len() < api.MaxText-2200; i++ {
+		fmt.Fprintf(&b, "func f%d >\n%sret\n", i, strings.Repeat("int -9223372036854775808\n", 82))
+	}
+	// A name's length takes up what lines of six bytes leave over.
+	rest := api.MaxText - b.Len() - len("func  >\nret")
+	text := b.String() + "func " + strings.Repeat("g", 6+rest%6) + " >\n" + strings.Repeat("int 0\n", rest/6-1) + "ret"
+	if s := agrees(t, text); s.e != api.OK || len(text) != api.MaxText {
+		t.Fatalf("%d bytes: line %d, error %d", len(text), s.line, s.e)
+	}
+	normal := asm.Normal(text)
+	if normal != text+"\n" {
+		t.Errorf("%d bytes", len(normal))
+	}
+	wrong(t, normal, 0, api.ErrText)
+}
+
 // The chapter's examples.
 func TestP9_1Examples(t *testing.T) {
 	says(t, "func main >\nret", image(plain("main", ret())))

@@ -325,7 +325,9 @@ func TestP9_1Locals(t *testing.T) {
 			}
 		}
 	}
+	// More letters than MaxTypes are no list's text.
 	wrong(t, "func main >\nlocal "+strings.Repeat("I", 1024)+"\nret", 0, api.ErrText)
+	wrong(t, "func main >\nlocal "+strings.Repeat("I", 1025)+"\nret", 2, api.ErrLine)
 }
 
 // P9.1: before any function there are no labels and no instructions.
